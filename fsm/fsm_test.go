@@ -186,6 +186,50 @@ func TestForm(t *testing.T) {
 	}
 }
 
+// Comes tells the cells that happen from those that the table has `-` for, and
+// of what is no state or no event that it does not come.
+func TestComes(t *testing.T) {
+	for event := range 16 {
+		for state := range 10 {
+			_, _, e := wanted(state, event)
+			if got := Comes(state, event); got != (e == api.OK) {
+				t.Errorf("Comes(%d, %d) = %t", state, event, got)
+			}
+		}
+	}
+	for _, n := range append([]int{10, 11, 15}, none...) {
+		for event := range 16 {
+			if Comes(n, event) {
+				t.Errorf("Comes(%d, %d)", n, event)
+			}
+		}
+	}
+	for _, n := range none {
+		for state := range 10 {
+			if Comes(state, n) {
+				t.Errorf("Comes(%d, %d)", state, n)
+			}
+		}
+	}
+}
+
+// Ways: Comes asks the table that is kept, Step hangs on nothing that is.
+func TestWhoReadsTheTable(t *testing.T) {
+	Comes(api.StateInitial, api.EventUp)
+	was := table.cells
+	defer func() { table.cells = was }()
+	table.cells = [events][states]cell{}
+	for event := range 16 {
+		for state := range 10 {
+			next, actions, e := wanted(state, event)
+			stepGives(t, state, event, next, actions, e)
+			if Comes(state, event) {
+				t.Errorf("Comes(%d, %d) does not ask the table", state, event)
+			}
+		}
+	}
+}
+
 // walk is a row of events from StateInitial on, and where each leads.
 type walk struct {
 	name   string
@@ -317,6 +361,9 @@ func TestAtOneTime(t *testing.T) {
 					}
 					if n != next || !slices.Equal(as, actions) || err != e {
 						faults[event] = fmt.Sprint("Step gives ", n, as, err)
+					}
+					if Comes(state, event) != (e == api.OK) {
+						faults[event] = "Comes tells something else"
 					}
 					for i := range as {
 						as[i] = -1
